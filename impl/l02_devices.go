@@ -146,8 +146,10 @@ func isLine(l Line) bool {
 	return len(l.Data) == lineSize && (len(l.Sent) == lineSize || l.Sent == "")
 }
 
-func safeLine(d Device, line int64) string {
-	return d.Safe[line*lineSize : (line+1)*lineSize]
+func safeLine(d Device, line int64) string { return lineOf(d.Safe, line) }
+
+func lineOf(image string, line int64) string {
+	return image[line*lineSize : (line+1)*lineSize]
 }
 
 // inOneLine asks for the line ahead of any sum, which then cannot wrap.
