@@ -1112,6 +1112,28 @@ func TestP11DurablesWithoutADeny(t *testing.T) {
 	}
 }
 
+// TestP11DurablesAreThoseThatSaySo: where every object has a handle, AcDurable tells as many as Durables.
+func TestP11DurablesAreThoseThatSaySo(t *testing.T) {
+	types, g := worldTypes(), graph(slots(1, 2, 3), smallWorld().Nodes...)
+	list := append([]impl.Act{act(impl.AcRoot, 0), act(impl.AcRoot, 1), act(impl.AcRoot, 2)}, repeated(5, act(impl.AcNew))...)
+	list = append(list, act(impl.AcPut, 3, 1, 4), act(impl.AcPut, 4, 1, 5), act(impl.AcBegin), act(impl.AcPublish, 0, 6), act(impl.AcAbort),
+		act(impl.AcBegin), act(impl.AcPut, 0, 1, 3), act(impl.AcCommit), act(impl.AcBegin), act(impl.AcPublish, 7, 7), act(impl.AcCommit),
+		act(impl.AcBegin), act(impl.AcPut, 5, 1, 6), act(impl.AcPublish, 0, -1), act(impl.AcCommit))
+	counts := impl.Durables(types, g, list)
+	for i := 7; i < len(list); i++ {
+		sum := int64(0)
+		for handle := range int64(8) {
+			sum += lastAnswer(t, types, g, append(slices.Clone(list[:i+1]), act(impl.AcDurable, handle))...).N
+		}
+		if sum != counts[i] {
+			t.Errorf("behind %v: %d are durable, Durables has %d", list[i], sum, counts[i])
+		}
+	}
+	if counts[7] != 3 || counts[12] != 3 || counts[15] != 6 || counts[18] != 7 || counts[22] != 8 {
+		t.Errorf("Durables = %v", counts)
+	}
+}
+
 // roomyActs is a copy of l with spare room behind it and its Keeps, and a look at all of that memory.
 func roomyActs(l []impl.Act) ([]impl.Act, func() string) {
 	all := make([]impl.Act, len(l)+2)
