@@ -1,6 +1,7 @@
 package tests
 
 import (
+	"slices"
 	"strings"
 	"testing"
 
@@ -560,13 +561,30 @@ type logModel struct {
 	d       impl.Device
 	epoch   int64
 	records []impl.Record
+	// Asked ahead of each step, where that is told.
+	ahead func()
 }
 
-func (m *logModel) store(at int64, data string) { m.d, _ = impl.Store(m.d, at, data) }
+func (m *logModel) store(at int64, data string) {
+	m.step()
+	m.d, _ = impl.Store(m.d, at, data)
+}
 
-func (m *logModel) send(line int64) { m.d, _ = impl.Flush(m.d, line) }
+func (m *logModel) send(line int64) {
+	m.step()
+	m.d, _ = impl.Flush(m.d, line)
+}
 
-func (m *logModel) fence() { m.d = impl.Fence(m.d) }
+func (m *logModel) fence() {
+	m.step()
+	m.d = impl.Fence(m.d)
+}
+
+func (m *logModel) step() {
+	if m.ahead != nil {
+		m.ahead()
+	}
+}
 
 func (m *logModel) whole(line int64, data string) {
 	m.store(64*line, data)
@@ -623,10 +641,8 @@ func (m *logModel) rolledBack() int64 {
 		m.store(32*m.records[i].Half, m.records[i].Old)
 	}
 	for n := range m.c.Lines {
-		for _, r := range m.records {
-			if r.Half/2 == n {
-				m.send(n)
-			}
+		if slices.ContainsFunc(m.records, func(r impl.Record) bool { return r.Half/2 == n }) {
+			m.send(n)
 		}
 	}
 	m.fence()

@@ -104,8 +104,15 @@ func wantEach(t *testing.T, ahead []impl.Act, cases []actCase) {
 	}
 }
 
-func TestP11ActsOutsideOfRegions(t *testing.T) {
-	wantEach(t, withDesk(), []actCase{
+func TestP11ActsOutsideOfRegions(t *testing.T) { wantEach(t, withDesk(), outsideCases()) }
+
+func TestP11ActsWithinRegions(t *testing.T) {
+	wantEach(t, withDesk(act(impl.AcBegin)), withinCases())
+}
+
+// outsideCases are of acts behind withDesk.
+func outsideCases() []actCase {
+	return []actCase{
 		{act(impl.AcNew, 0), does(3)},
 		{act(impl.AcNew, 1), does(3)},
 		{act(impl.AcNew, -1), refuses(impl.CdType)},
@@ -167,11 +174,12 @@ func TestP11ActsOutsideOfRegions(t *testing.T) {
 		{act(0), refuses(impl.CdForm)},
 		{act(19), refuses(impl.CdForm)},
 		{act(-1), refuses(impl.CdForm)},
-	})
+	}
 }
 
-func TestP11ActsWithinRegions(t *testing.T) {
-	wantEach(t, withDesk(act(impl.AcBegin)), []actCase{
+// withinCases are of acts behind withDesk and a region's beginning.
+func withinCases() []actCase {
+	return []actCase{
 		{act(impl.AcNew, 1), does(3)},
 		{act(impl.AcSet, 0, 0, 7), does(0)},
 		{act(impl.AcSet, 1, 0, 7), does(0)},
@@ -192,7 +200,7 @@ func TestP11ActsWithinRegions(t *testing.T) {
 		{act(impl.AcAbort), does(0)},
 		{act(impl.AcCrash), does(0)},
 		{act(19), refuses(impl.CdForm)},
-	})
+	}
 }
 
 // TestP11HandlesThatAreNotUsed asks of every place where an act names a handle.
